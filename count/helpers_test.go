@@ -62,7 +62,7 @@ func smallCounts() []api.Count {
 	all := []api.Count{exampleC(), exampleD(), exampleE(), clashing()}
 	for pairs := 1; pairs <= api.CountPairs; pairs++ {
 		for sheets := 1; sheets <= api.CountSheets; sheets++ {
-			for range 25 {
+			for range 12 {
 				all = append(all, randomCount(r, pairs, sheets, most[pairs]))
 			}
 		}

@@ -134,7 +134,7 @@ func TestSure(t *testing.T) {
 	}
 }
 
-// P4.4: the chapter's examples; things that clash alone, by two, and by many, the fewest of them, and of several the least number.
+// P4.4: the chapter's examples; things that clash by two, and by many, the fewest of them, and of several the least number.
 func TestClash(t *testing.T) {
 	twice := seen(list([2]int{0, 1}, [2]int{0, 1}, [2]int{1, 0}, [2]int{1, 0}))
 	for i, x := range []struct {
@@ -144,7 +144,7 @@ func TestClash(t *testing.T) {
 	}{
 		{api.Sprint{}, 0, api.ErrNone}, {seen(list([2]int{0, 1}, [2]int{2, 3}), placed(1, 1, 2)), 0, api.ErrNone},
 		{twice, 0b101, api.OK}, {cycle(3), 0b111, api.OK}, {cycle(4), 0b1111, api.OK},
-		// A thing clashes alone if nobody can have come before.
+		// Nobody can have come before the first place.
 		{seen(list([2]int{0, 1}), placed(1, 0, 0)), 0b11, api.OK}, {seen(list([2]int{1, 2}, [2]int{0, 1}), placed(1, 0, 0), placed(0, 3, 3)), 0b110, api.OK},
 		{seen(nil, placed(0, 0, 1), placed(0, 2, 3)), 0b11, api.OK}, {seen(nil, placed(0, 2, 2), placed(3, 0, 3), placed(1, 2, 2)), 0b101, api.OK},
 		// Three pairs do not have room on two places.
